@@ -107,7 +107,13 @@ func TestFates(t *testing.T) {
 		{0, "abcd", []int{0, 1}, ""},
 		{3, "ab", []int{1}, gap(3) + "ab"},
 		{3, "ab", []int{2}, gap(3) + "a"},
-		{3, "a", []int{2}, gap(3)}, // the half, of no bytes, reaches its place
+		{3, "a", []int{2}, ""}, // the half, of no bytes, reaches no place
+		{63, "a", []int{2}, ""},
+		{64, "a", []int{2}, ""},
+		{63, "ab", []int{2, 0}, ""},
+		{63, "ab", []int{1, 2}, gap(63) + "a"},
+		{63, "ab", []int{2, 1}, gap(64) + "b"},
+		{63, "abc", []int{2, 2}, gap(64) + "b"},
 		{60, "abcdEF", []int{1, 1}, gap(60) + "abcdEF"},
 		{60, "abcdEF", []int{0, 1}, gap(64) + "EF"},
 		{60, "abcdEF", []int{1, 0}, gap(60) + "abcd"},
@@ -125,6 +131,42 @@ func TestFates(t *testing.T) {
 			t.Errorf("%d: Free %d, want %d", i, d.Free(), free)
 		}
 	}
+}
+
+func TestHalfOfOneByteLeavesWhatLasts(t *testing.T) {
+	for i, c := range []struct {
+		at    int
+		s     string
+		fates []int
+		want  string
+	}{
+		{0, "x", []int{2}, "abc"},
+		{1, "x", []int{2}, "abc"},
+		{3, "x", []int{2}, "abc"},
+		{4, "x", []int{2}, "abc"},
+		{5, "x", []int{2}, "abc"},
+		{200, "x", []int{2}, "abc"},
+		{63, "xy", []int{2, 2}, "abc"},
+		{5, "x", []int{1}, "abc\x00\x00x"},
+		{5, "xy", []int{2}, "abc\x00\x00x"},
+	} {
+		d := device(t, 4, "a")
+		d.Write("a", 0, "abc")
+		d.Sync()
+		if e := d.Write("a", c.at, c.s); e != api.OK {
+			t.Fatalf("%d: Write: %v", i, e)
+		}
+		d.Crash(c.fates)
+		if s := all(t, d, "a"); s != c.want || d.Free() != 3 {
+			t.Errorf("%d: Crash(%v): %q, Free %d, want %q, 3", i, c.fates, s, d.Free(), c.want)
+		}
+	}
+	// A piece that lasts behind a torn one of a byte fills the gap from where the file ended ahead of both.
+	d := device(t, 4, "a")
+	d.Write("a", 100, "x")
+	d.Write("a", 2, "y")
+	d.Crash([]int{2, 1})
+	holds(t, d, "a", "\x00\x00y")
 }
 
 func TestFatesInOrder(t *testing.T) {

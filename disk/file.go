@@ -37,8 +37,11 @@ func (f *file) sectors() int { return begun(max(len(f.lasts), len(f.seen))) }
 // begun is how many sectors so many bytes have, with the one that is begun.
 func begun(bytes int) int { return (bytes + api.Sector - 1) / api.Sector }
 
-// put is b with a text laid over it at a place; bytes 0 fill a gap ahead of that, also of the empty text.
+// put is b with a text laid over it at a place; bytes 0 fill a gap ahead of that. The empty text has no byte that reaches the place, so there is no gap to fill.
 func put(b []byte, at int, s string) []byte {
+	if s == "" {
+		return b
+	}
 	if lack := at + len(s) - len(b); lack > 0 {
 		b = append(b, make([]byte, lack)...)
 	}

@@ -74,8 +74,11 @@ func newPlain(sectors int) *plain {
 	return &plain{sectors: sectors, fuse: -1, lasts: map[string]string{}, seen: map[string]string{}}
 }
 
-// laid is a text with another one laid over it.
+// laid is a text with another one laid over it; the empty one leaves it as it is.
 func laid(under string, at int, s string) (x string) {
+	if s == "" {
+		return under
+	}
 	for i := range max(len(under), at+len(s)) {
 		switch {
 		case i >= at && i < at+len(s):
